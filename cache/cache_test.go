@@ -202,6 +202,34 @@ func (x *bench) takes(want ...int) {
 	}
 }
 
+// Len is how many sectors the device has: those of which Get is not ErrArg.
+func TestLen(t *testing.T) {
+	for _, n := range []int{api.MinSectors, 17, 100, api.MaxSectors} {
+		d := device(t, n)
+		c, e := cache.New(d, 8)
+		if e != api.OK {
+			t.Fatal(e)
+		}
+		d.Fail(api.FailRead, 0)
+		if got := c.Len(); got != n || len(c.Held()) != 0 {
+			t.Errorf("of %d sectors Len is %d, held are %v", n, got, c.Held())
+		}
+		if _, e := c.Get(c.Len()); e != api.ErrArg {
+			t.Errorf("Get of sector Len is %v", e)
+		}
+		if _, e := c.Get(c.Len() - 1); e != api.ErrIO {
+			t.Errorf("the first Read is %v", e)
+		}
+	}
+	var c *cache.Cache
+	if n := c.Len(); n != 0 {
+		t.Errorf("of a nil cache Len is %d", n)
+	}
+	if n := new(cache.Cache).Len(); n != 0 {
+		t.Errorf("of the zero cache Len is %d", n)
+	}
+}
+
 // P5.1: from 8 to 64 frames, and just so many; they hold nothing.
 func TestNew(t *testing.T) {
 	for frames := 8; frames <= 64; frames++ {
